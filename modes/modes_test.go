@@ -409,21 +409,25 @@ type slowMode [3][3]bool
 
 func slowBits(mode int) slowMode {
 	var m slowMode
-	for i, c := range fmt.Sprintf("%09b", uint(mode)%512) {
-		m[i/3][i%3] = c == '1'
+	left := uint(mode) % 512
+	for i := 8; i >= 0; i-- {
+		m[i/3][i%3] = left%2 == 1
+		left /= 2
 	}
 	return m
 }
 
 func (m slowMode) number() int {
-	text := ""
+	n := 0
 	for _, part := range m {
 		for _, bit := range part {
-			text += map[bool]string{false: "0", true: "1"}[bit]
+			n *= 2
+			if bit {
+				n++
+			}
 		}
 	}
-	n, _ := strconv.ParseInt(text, 2, 0)
-	return int(n)
+	return n
 }
 
 // slowChange says P10.2 of one change, bit by bit.
@@ -658,10 +662,10 @@ func allChanges() []api.Change {
 	return out
 }
 
-// P10.2: all changes at all modes, held against a reading bit by bit.
+// P10.2: all changes at all modes, with some mask; some changes with all masks, at some modes.
 func TestApplyAll(t *testing.T) {
 	for i, c := range allChanges() {
-		for mode := i % 3; mode < 512; mode += 3 {
+		for mode := range 512 {
 			for _, dir := range []bool{false, true} {
 				mask := (mode*5 + i*7) % 512
 				if got, want := modes.Apply(changes(c), mode, mask, dir), slowApply(changes(c), mode, mask, dir); got != want {
